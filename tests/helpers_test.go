@@ -1,8 +1,12 @@
 package tests
 
 import (
+	"crypto/sha256"
+	"encoding/hex"
 	"fmt"
+	"maps"
 	"slices"
+	"strings"
 	"testing"
 
 	"loop.example/g00652/impl"
@@ -19,33 +23,168 @@ func numbered(n int) []impl.Pair {
 
 // roomy holds a list that has used rows in its spare room, to see whether a
 // call writes into the list or behind it.
-type roomy struct {
-	all  []impl.Pair
-	was  []impl.Pair
+type roomy[T comparable] struct {
+	all  []T
+	was  []T
 	size int
 }
 
-func newRoomy(m []impl.Pair) roomy {
-	all := slices.Clone(m)
+func newRoomy[T comparable](list []T, spare T) roomy[T] {
+	all := slices.Clone(list)
 	for range 3 {
-		all = append(all, impl.Pair{Key: "spare", Val: "room"})
+		all = append(all, spare)
 	}
-	return roomy{all: all, was: slices.Clone(all), size: len(m)}
+	return roomy[T]{all: all, was: slices.Clone(all), size: len(list)}
 }
 
-func (r roomy) list() []impl.Pair { return r.all[:r.size] }
+func (r roomy[T]) list() []T { return r.all[:r.size] }
 
-func (r roomy) check(t *testing.T, call string) {
+func (r roomy[T]) check(t *testing.T, call string) {
 	t.Helper()
 	if !slices.Equal(r.all, r.was) {
-		t.Errorf("%s wrote into its argument or behind it: %q", call, r.all)
+		t.Errorf("%s wrote into its argument or behind it: %q", call, fmt.Sprint(r.all))
 	}
 }
 
 // spoil writes over an answer and its spare room, which must be its own.
-func spoil(answer []impl.Pair) {
+func spoil[T any](answer []T, with T) {
 	answer = answer[:cap(answer)]
 	for i := range answer {
-		answer[i] = impl.Pair{Key: "spoilt", Val: "spoilt"}
+		answer[i] = with
 	}
+}
+
+var (
+	sparePair = impl.Pair{Key: "spare", Val: "room"}
+	spareObj  = impl.Obj{Id: "spare", Text: "room"}
+)
+
+// idOf is reckoned by the library, so that the tests do not lean on IdOf.
+func idOf(text string) string {
+	sum := sha256.Sum256([]byte(text))
+	return hex.EncodeToString(sum[:8])
+}
+
+// objsOf are the objects of these texts, as they have to stand.
+func objsOf(texts ...string) []impl.Obj {
+	byId := map[string]string{}
+	for _, text := range texts {
+		byId[idOf(text)] = text
+	}
+	var l []impl.Obj
+	for _, id := range slices.Sorted(maps.Keys(byId)) {
+		l = append(l, impl.Obj{Id: id, Text: byId[id]})
+	}
+	return l
+}
+
+// texts are n of them, all unlike.
+func texts(n int) []string {
+	var out []string
+	for i := range n {
+		out = append(out, fmt.Sprintf("text %d", i))
+	}
+	return out
+}
+
+// notRightObjs are lists of objects that are not right, each for one reason,
+// with the text abc among them where that can be.
+func notRightObjs() map[string][]impl.Obj {
+	right := objsOf("abc", "def", "ghi")
+	long := strings.Repeat("x", 2001)
+	sum := sha256.Sum256([]byte("abc"))
+	return map[string][]impl.Obj{
+		"ids fall":              {right[0], right[2], right[1]},
+		"first two fall":        {right[1], right[0], right[2]},
+		"one twice":             {right[0], right[1], right[1]},
+		"61 objects":            objsOf(append(texts(60), "abc")...),
+		"text of 2001 bytes":    objsOf("abc", long),
+		"2001 bytes, no id":     append([]impl.Obj{{Text: long}}, right...),
+		"no id":                 append([]impl.Obj{{Text: ""}}, right...),
+		"another text":          {right[0], right[1], {Id: right[2].Id, Text: right[2].Text + "!"}},
+		"another id":            {{Id: "0000000000000000", Text: "xyz"}, right[0], right[1]},
+		"id of 15 digits":       {{Id: idOf("abc")[:15], Text: "abc"}},
+		"id of 17 digits":       {{Id: hex.EncodeToString(sum[:9])[:17], Text: "abc"}},
+		"id in capital letters": {{Id: strings.ToUpper(idOf("abc")), Text: "abc"}},
+		"ids changed about":     {{Id: right[0].Id, Text: right[1].Text}, {Id: right[1].Id, Text: right[0].Text}},
+	}
+}
+
+// commitText is put together by hand, so that the tests do not lean on CommitText.
+func commitText(treeId string, note string, parents ...string) string {
+	text := "commit " + treeId
+	for _, id := range parents {
+		text += " " + id
+	}
+	return text + "\n" + note
+}
+
+const (
+	treeA = "map\na=1\n"
+	treeB = "map\nb=2\n"
+)
+
+// notRightRepos are texts whose objects are right, but no repository, each for
+// one reason, with the commit of treeA and the note first among them.
+func notRightRepos() map[string][]string {
+	first := commitText(idOf(treeA), "first")
+	none := idOf("none")
+	high, low := max(idOf(first), idOf("map\n")), min(idOf(first), idOf("map\n"))
+	second := commitText(idOf(treeA), "second")
+	repos := map[string][]string{
+		"another text":                {"abc"},
+		"the empty text":              {""},
+		"map without a line's end":    {"map"},
+		"two maps":                    {"map\nmap\n"},
+		"a map's text alone":          {"a=1\n"},
+		"pair without an end":         {"map\na=1"},
+		"keys of a tree fall":         {"map\nb=1\na=1\n"},
+		"value of 13 bytes":           {"map\na=1234567890123\n"},
+		"no such Tree":                {commitText(none, "")},
+		"Tree is a commit":            {commitText(idOf(first), "")},
+		"no such parent":              {commitText(idOf(treeA), "", none)},
+		"no such second parent":       {commitText(idOf(treeA), "", parents(first, "none")...)},
+		"parent is a tree":            {commitText(idOf(treeA), "", idOf(treeA))},
+		"second parent is a tree":     {"map\n", commitText(idOf(treeA), "", low, high)},
+		"parents fall":                {second, commitText(idOf(treeA), "", max(idOf(first), idOf(second)), min(idOf(first), idOf(second)))},
+		"parents alike":               {commitText(idOf(treeA), "", idOf(first), idOf(first))},
+		"note of 41 bytes":            {commitText(idOf(treeA), strings.Repeat("x", 41))},
+		"note with a byte 10":         {commitText(idOf(treeA), "x\n")},
+		"commit without a line's end": {"commit " + idOf(treeA)},
+	}
+	for name := range repos {
+		repos[name] = append(repos[name], treeA, first)
+	}
+	return repos
+}
+
+// parents are the ids of these texts, as they have to stand in a commit.
+func parents(texts ...string) []string {
+	var ids []string
+	for _, text := range texts {
+		ids = append(ids, idOf(text))
+	}
+	slices.Sort(ids)
+	return ids
+}
+
+// notRightTreesAndCommits are objects that are not right, though all of their
+// texts could stand in a repository.
+func notRightTreesAndCommits() map[string][]impl.Obj {
+	right := objsOf(treeA, commitText(idOf(treeA), "first"))
+	return map[string][]impl.Obj{
+		"ids fall":   {right[1], right[0]},
+		"one twice":  {right[0], right[1], right[1]},
+		"another id": {right[0], right[1], {Id: "ffffffffffffffff", Text: treeB}},
+		"61 objects": objsOf(trees(61)...),
+	}
+}
+
+// trees are n texts, all unlike.
+func trees(n int) []string {
+	var out []string
+	for i := range n {
+		out = append(out, fmt.Sprintf("map\nn=%d\n", i))
+	}
+	return out
 }

@@ -330,13 +330,13 @@ func keysRise(s string) bool {
 
 func TestMapCallsLeaveTheirArguments(t *testing.T) {
 	for _, m := range [][]impl.Pair{nil, numbered(1), numbered(3), numbered(40), {{Key: "b"}, {Key: "a"}}} {
-		r := newRoomy(m)
+		r := newRoomy(m, sparePair)
 		for _, key := range []string{"a", "k00", "k01", "k01a", "k39", "z", ""} {
 			n, _ := impl.Put(r.list(), key, "new")
-			spoil(n)
+			spoil(n, sparePair)
 			r.check(t, "Put of "+key)
 			n, _ = impl.Drop(r.list(), key)
-			spoil(n)
+			spoil(n, sparePair)
 			r.check(t, "Drop of "+key)
 			impl.Get(r.list(), key)
 			r.check(t, "Get of "+key)
@@ -350,13 +350,13 @@ func TestMapCallsLeaveTheirArguments(t *testing.T) {
 func TestMapCallsAnswerTheSameAgain(t *testing.T) {
 	m := numbered(5)
 	first, _ := impl.Put(m, "k02", "new")
-	spoil(first)
+	spoil(first, sparePair)
 	again, ok := impl.Put(m, "k02", "new")
 	if !ok || impl.MapText(again) != "k00=v0\nk01=v1\nk02=new\nk03=v3\nk04=v4\n" {
 		t.Errorf("Put tells %q, %v", again, ok)
 	}
 	read, _ := impl.ReadMap("a=1\nb=2\n")
-	spoil(read)
+	spoil(read, sparePair)
 	if again, ok := impl.ReadMap("a=1\nb=2\n"); !ok || impl.MapText(again) != "a=1\nb=2\n" {
 		t.Errorf("ReadMap tells %q, %v", again, ok)
 	}
