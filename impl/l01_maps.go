@@ -147,12 +147,17 @@ func MapText(m []Pair) string {
 	}
 	var out strings.Builder
 	for _, p := range m {
-		out.WriteString(p.Key)
-		out.WriteByte('=')
-		out.WriteString(p.Val)
-		out.WriteByte('\n')
+		writePair(&out, "", p)
 	}
 	return out.String()
+}
+
+func writePair(out *strings.Builder, sign string, p Pair) {
+	out.WriteString(sign)
+	out.WriteString(p.Key)
+	out.WriteByte('=')
+	out.WriteString(p.Val)
+	out.WriteByte('\n')
 }
 
 func ReadMap(s string) ([]Pair, bool) {
