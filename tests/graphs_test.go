@@ -4,27 +4,36 @@ import (
 	"cmp"
 	"fmt"
 	"slices"
+	"strings"
 
 	"loop.example/g00652/impl"
 )
 
 // graph is a history whose commits are known by their places: parents have
-// lower ones than those whose parents they are. All commits have treeA.
+// lower ones than those whose parents they are.
 type graph struct {
+	texts   []string
 	objs    []impl.Obj
 	ids     []string
 	parents [][]int
+	maps    []string
 }
 
+// graphOf has treeA for each commit.
 func graphOf(parents ...[]int) graph {
-	g := graph{parents: parents}
-	list := []string{treeA}
+	return mappedGraph(slices.Repeat([]string{"a=1\n"}, len(parents)), parents...)
+}
+
+// mappedGraph has for each commit the map of this text.
+func mappedGraph(maps []string, parents ...[]int) graph {
+	g := graph{parents: parents, maps: maps}
 	for i, places := range parents {
-		text := commitText(idOf(treeA), fmt.Sprint("commit ", i), g.rising(places)...)
-		list = append(list, text)
+		tree := "map\n" + maps[i]
+		text := commitText(idOf(tree), fmt.Sprint("commit ", i), g.rising(places)...)
+		g.texts = append(g.texts, tree, text)
 		g.ids = append(g.ids, idOf(text))
 	}
-	g.objs = objsOf(list...)
+	g.objs = objsOf(g.texts...)
 	return g
 }
 
@@ -184,4 +193,12 @@ func graphs() map[string]graph {
 		out[fmt.Sprint("mixed ", seed)] = graphOf(mixed(2+int(seed)/2, seed)...)
 	}
 	return out
+}
+
+// noCommits are ids that are no commit's of a graph.
+func noCommits() []string {
+	return []string{
+		"", "x", idOf(treeA), idOf("none"), idOf("map\n"), idOf(commitText(idOf(treeA), "commit 0"))[:15],
+		strings.ToUpper(idOf(commitText(idOf(treeA), "commit 0"))), idOf(commitText(idOf(treeA), "commit 0")) + "0",
+	}
 }

@@ -188,3 +188,71 @@ func trees(n int) []string {
 	}
 	return out
 }
+
+// pairsOf are the pairs of a Go map, as they have to stand.
+func pairsOf(vals map[string]string) []impl.Pair {
+	var m []impl.Pair
+	for _, key := range slices.Sorted(maps.Keys(vals)) {
+		m = append(m, impl.Pair{Key: key, Val: vals[key]})
+	}
+	return m
+}
+
+func valsOf(m []impl.Pair) map[string]string {
+	vals := map[string]string{}
+	for _, p := range m {
+		vals[p.Key] = p.Val
+	}
+	return vals
+}
+
+// lettered is numbered with other keys: all stand ahead of those, or behind.
+func lettered(n int, letter string) []impl.Pair {
+	m := numbered(n)
+	for i := range m {
+		m[i].Key = letter + m[i].Key
+	}
+	return m
+}
+
+func has(vals map[string]string, key string) bool {
+	_, there := vals[key]
+	return there
+}
+
+// notRightMaps are maps that are not right, each for one reason.
+func notRightMaps() map[string][]impl.Pair {
+	return map[string][]impl.Pair{
+		"key twice":       {{Key: "a", Val: "1"}, {Key: "a", Val: "1"}},
+		"keys fall":       {{Key: "b", Val: "2"}, {Key: "a", Val: "1"}},
+		"key of 0 bytes":  {{Key: "", Val: "2"}, {Key: "a", Val: "1"}},
+		"key of 9 bytes":  {{Key: "a", Val: "1"}, {Key: "abcdefgh9", Val: "2"}},
+		"key A":           {{Key: "A", Val: "1"}, {Key: "a", Val: "1"}},
+		"value too long":  {{Key: "a", Val: "1"}, {Key: "b", Val: "1234567890123"}},
+		"value of byte 9": {{Key: "a", Val: "1"}, {Key: "b", Val: "\t"}},
+		"41 pairs":        numbered(41),
+	}
+}
+
+// rightMaps are right maps: of no pairs, of 40, and some by chance that is always the same.
+func rightMaps() [][]impl.Pair {
+	turned := numbered(40)
+	for i := range turned {
+		turned[i].Val = "turned"
+	}
+	out := [][]impl.Pair{
+		nil, {}, {{Key: "k00", Val: "v0"}}, {{Key: "k00"}}, {{Key: "k05", Val: "v5"}}, {{Key: "z", Val: "="}},
+		numbered(39), numbered(40), numbered(40)[1:], turned, lettered(40, "a"), lettered(40, "z"),
+		append(lettered(20, "a"), numbered(20)...), append(numbered(20), lettered(20, "z")...),
+	}
+	next := uint32(7)
+	for range 20 {
+		vals := map[string]string{}
+		for range 30 {
+			next = next*1664525 + 1013904223
+			vals[fmt.Sprintf("k%02d", next>>26)] = fmt.Sprintf("v%d", next>>10&3)
+		}
+		out = append(out, pairsOf(vals))
+	}
+	return out
+}

@@ -2,7 +2,6 @@ package tests
 
 import (
 	"slices"
-	"strings"
 	"testing"
 
 	"loop.example/g00652/impl"
@@ -54,14 +53,6 @@ func TestRepoOkLeavesItsArgument(t *testing.T) {
 		r := newRoomy(l, spareObj)
 		impl.RepoOk(r.list())
 		r.check(t, "RepoOk")
-	}
-}
-
-// noCommits are ids that are no commit's of a graph.
-func noCommits() []string {
-	return []string{
-		"", "x", idOf(treeA), idOf("none"), idOf("map\n"), idOf(commitText(idOf(treeA), "commit 0"))[:15],
-		strings.ToUpper(idOf(commitText(idOf(treeA), "commit 0"))), idOf(commitText(idOf(treeA), "commit 0")) + "0",
 	}
 }
 
