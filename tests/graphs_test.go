@@ -37,13 +37,29 @@ func mappedGraph(maps []string, parents ...[]int) graph {
 	return g
 }
 
-func (g graph) rising(places []int) []string {
+// idsAt keeps the order of the places.
+func (g graph) idsAt(places []int) []string {
 	var ids []string
 	for _, at := range places {
 		ids = append(ids, g.ids[at])
 	}
-	slices.Sort(ids)
 	return ids
+}
+
+func (g graph) rising(places []int) []string {
+	return slices.Sorted(slices.Values(g.idsAt(places)))
+}
+
+// objsAt has the commits at these places and the trees of these maps, alone.
+func (g graph) objsAt(places []int, maps []string) []impl.Obj {
+	var texts []string
+	for _, at := range places {
+		texts = append(texts, g.texts[2*at+1])
+	}
+	for _, m := range maps {
+		texts = append(texts, "map\n"+m)
+	}
+	return objsOf(texts...)
 }
 
 // behind tells of each place what is behind it, as the document has it.
@@ -59,6 +75,20 @@ func (g graph) behind() [][]bool {
 		}
 	}
 	return out
+}
+
+// part has what is behind the commits at these places, and their trees, alone.
+func (g graph) part(places ...int) []impl.Obj {
+	behind := g.behind()
+	var texts []string
+	for _, at := range places {
+		for i, is := range behind[at] {
+			if is {
+				texts = append(texts, g.texts[2*i], g.texts[2*i+1])
+			}
+		}
+	}
+	return objsOf(texts...)
 }
 
 func (g graph) depths() []int64 {
@@ -165,6 +195,23 @@ func mixed(n int, seed uint32) [][]int {
 		case kind > 0:
 			out[i] = []int{a}
 		}
+	}
+	return out
+}
+
+// ternary are n maps of three keys, each with one of two values or not there,
+// by chance that is always the same.
+func ternary(n int, seed uint32) []string {
+	var out []string
+	for range n {
+		text := ""
+		for _, key := range []string{"p", "q", "r"} {
+			seed = seed*1664525 + 1013904223
+			if val := seed >> 8 % 3; val > 0 {
+				text += fmt.Sprintf("%s=%d\n", key, val)
+			}
+		}
+		out = append(out, text)
 	}
 	return out
 }

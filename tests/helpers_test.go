@@ -5,9 +5,11 @@ import (
 	"encoding/hex"
 	"fmt"
 	"maps"
+	"runtime"
 	"slices"
 	"strings"
 	"testing"
+	"time"
 
 	"loop.example/g00652/impl"
 )
@@ -54,9 +56,33 @@ func spoil[T any](answer []T, with T) {
 	}
 }
 
+// checkGoroutines asks that the call leaves none behind. One that is at its end
+// may still be seen for a moment, so it is asked more than once.
+func checkGoroutines(t *testing.T, name string, call func()) {
+	t.Helper()
+	before := runtime.NumGoroutine()
+	for range 50 {
+		call()
+	}
+	for range 200 {
+		if runtime.NumGoroutine() <= before {
+			return
+		}
+		time.Sleep(10 * time.Millisecond)
+	}
+	t.Errorf("%s: there were %d goroutines, and are %d", name, before, runtime.NumGoroutine())
+}
+
 var (
 	sparePair = impl.Pair{Key: "spare", Val: "room"}
 	spareObj  = impl.Obj{Id: "spare", Text: "room"}
+	spareRef  = impl.Ref{Name: "spare", Id: idMid}
+)
+
+const (
+	idLow  = "0123456789abcdef"
+	idMid  = "5555555555555555"
+	idHigh = "fedcba9876543210"
 )
 
 // idOf is reckoned by the library, so that the tests do not lean on IdOf.
@@ -76,6 +102,15 @@ func objsOf(texts ...string) []impl.Obj {
 		l = append(l, impl.Obj{Id: id, Text: byId[id]})
 	}
 	return l
+}
+
+// objIds are the ids of objects, in their order.
+func objIds(l []impl.Obj) []string {
+	var ids []string
+	for _, o := range l {
+		ids = append(ids, o.Id)
+	}
+	return ids
 }
 
 // texts are n of them, all unlike.
@@ -122,6 +157,14 @@ func commitText(treeId string, note string, parents ...string) string {
 const (
 	treeA = "map\na=1\n"
 	treeB = "map\nb=2\n"
+)
+
+// Twins are two texts of one id; these were found by a long search. Of the two
+// commits of treeA the second one has a parent: that of treeA with the note first.
+var (
+	twinCommits    = [2]string{"commit ffe3589ddb37bf29\nTA+UZYGfXv4", "commit ffe3589ddb37bf29 82e6864dac02764f\n7Dj8ap4FSp0"}
+	twinTrees      = [2]string{"map\na=Hyy8hDswiT4\n", "map\na=Wc4v1F+Wth0\n"}
+	twinTreeCommit = [2]string{"map\na=zIt2uTJx4R0\n", "commit ffe3589ddb37bf29\nRPtXBmhaKq7"}
 )
 
 // notRightRepos are texts whose objects are right, but no repository, each for
@@ -255,4 +298,41 @@ func rightMaps() [][]impl.Pair {
 		out = append(out, pairsOf(vals))
 	}
 	return out
+}
+
+// numberedRefs are right refs, as long as n is at most 20.
+func numberedRefs(n int) []impl.Ref {
+	var r []impl.Ref
+	for i := range n {
+		r = append(r, impl.Ref{Name: fmt.Sprintf("r%02d", i), Id: idOf(fmt.Sprint(i))})
+	}
+	return r
+}
+
+// notRightRefs are refs that are not right, each for one reason, with main
+// among them where that can be.
+func notRightRefs() map[string][]impl.Ref {
+	main := impl.Ref{Name: "main", Id: idMid}
+	return map[string][]impl.Ref{
+		"names fall":           {{Name: "zoo", Id: idLow}, main},
+		"names fall at last":   {main, {Name: "zoo", Id: idLow}, {Name: "new", Id: idLow}},
+		"main twice":           {main, main},
+		"main twice, to two":   {main, {Name: "main", Id: idHigh}},
+		"another twice":        {{Name: "a", Id: idLow}, {Name: "a", Id: idLow}, main},
+		"name of 0 bytes":      {{Name: "", Id: idLow}, main},
+		"name of 9 bytes":      {main, {Name: "main56789", Id: idLow}},
+		"name in capitals":     {{Name: "Main", Id: idLow}, main},
+		"name with a blank":    {main, {Name: "main 2", Id: idLow}},
+		"name of a byte 128":   {main, {Name: "\x80", Id: idLow}},
+		"no id":                {main, {Name: "new", Id: ""}},
+		"id of 15 digits":      {main, {Name: "new", Id: idLow[:15]}},
+		"id of 17 digits":      {main, {Name: "new", Id: idLow + "0"}},
+		"id in capitals":       {main, {Name: "new", Id: strings.ToUpper(idLow)}},
+		"id with a g":          {{Name: "a", Id: idLow[:15] + "g"}, main},
+		"main without an id":   {{Name: "main"}},
+		"zero values":          make([]impl.Ref, 2),
+		"21":                   append([]impl.Ref{main}, numberedRefs(20)...),
+		"many, all alike":      slices.Repeat([]impl.Ref{main}, 100000),
+		"many, with no values": make([]impl.Ref, 100000),
+	}
 }

@@ -181,6 +181,27 @@ func TestObjectCallsRefuseWhatIsNotRight(t *testing.T) {
 	}
 }
 
+func TestObjectCallsRefuseTwoTextsOfOneId(t *testing.T) {
+	for _, twins := range [][2]string{twinCommits, twinTrees, twinTreeCommit} {
+		if twins[0] == twins[1] || idOf(twins[0]) != idOf(twins[1]) {
+			t.Fatalf("%q are no twins", twins)
+		}
+		for i, text := range twins {
+			other := twins[1-i]
+			l := objsOf("abc", text, "def")
+			if n, id, ok := impl.Add(l, other); ok || id != "" || len(n) != 0 {
+				t.Errorf("Add of %q to its twin tells %q, %q, %v", other, n, id, ok)
+			}
+			if n, ok := impl.Joined(l, objsOf(other, "ghi")); ok || len(n) != 0 {
+				t.Errorf("Joined of %q and its twin tells %q, %v", text, n, ok)
+			}
+			if n, ok := impl.Joined(l, objsOf(text, "ghi")); !ok || len(n) != 4 {
+				t.Errorf("Joined of %q and itself tells %q, %v", text, n, ok)
+			}
+		}
+	}
+}
+
 // A Go map goes the same way as the objects; both must hold the same all along.
 func TestAddChangesNothingElse(t *testing.T) {
 	model := map[string]bool{}

@@ -9,12 +9,6 @@ import (
 	"loop.example/g00652/impl"
 )
 
-const (
-	idLow  = "0123456789abcdef"
-	idMid  = "5555555555555555"
-	idHigh = "fedcba9876543210"
-)
-
 func sameCommit(a, b impl.Commit) bool {
 	return a.Tree == b.Tree && slices.Equal(a.Parents, b.Parents) && a.Note == b.Note
 }

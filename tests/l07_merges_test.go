@@ -414,23 +414,6 @@ func checkMergeCommit(t *testing.T, name string, g graph, a, b int, note string)
 	return len(told) > 0
 }
 
-// ternary are n maps of three keys, each with one of two values or not there,
-// by chance that is always the same.
-func ternary(n int, seed uint32) []string {
-	var out []string
-	for range n {
-		text := ""
-		for _, key := range []string{"p", "q", "r"} {
-			seed = seed*1664525 + 1013904223
-			if val := seed >> 8 % 3; val > 0 {
-				text += fmt.Sprintf("%s=%d\n", key, val)
-			}
-		}
-		out = append(out, text)
-	}
-	return out
-}
-
 func TestMergeCommitOfAllGraphs(t *testing.T) {
 	clashes := map[bool]int{}
 	for name, g := range graphs() {

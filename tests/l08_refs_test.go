@@ -9,17 +9,6 @@ import (
 	"loop.example/g00652/impl"
 )
 
-var spareRef = impl.Ref{Name: "spare", Id: idMid}
-
-// numberedRefs are right refs, as long as n is at most 20.
-func numberedRefs(n int) []impl.Ref {
-	var r []impl.Ref
-	for i := range n {
-		r = append(r, impl.Ref{Name: fmt.Sprintf("r%02d", i), Id: idOf(fmt.Sprint(i))})
-	}
-	return r
-}
-
 func rightRefs() map[string][]impl.Ref {
 	return map[string][]impl.Ref{
 		"none":              nil,
@@ -33,34 +22,6 @@ func rightRefs() map[string][]impl.Ref {
 		"ids alike":         {{Name: "a", Id: idMid}, {Name: "b", Id: idMid}},
 		"19":                numberedRefs(19),
 		"20":                numberedRefs(20),
-	}
-}
-
-// notRightRefs are refs that are not right, each for one reason, with main
-// among them where that can be.
-func notRightRefs() map[string][]impl.Ref {
-	main := impl.Ref{Name: "main", Id: idMid}
-	return map[string][]impl.Ref{
-		"names fall":           {{Name: "zoo", Id: idLow}, main},
-		"names fall at last":   {main, {Name: "zoo", Id: idLow}, {Name: "new", Id: idLow}},
-		"main twice":           {main, main},
-		"main twice, to two":   {main, {Name: "main", Id: idHigh}},
-		"another twice":        {{Name: "a", Id: idLow}, {Name: "a", Id: idLow}, main},
-		"name of 0 bytes":      {{Name: "", Id: idLow}, main},
-		"name of 9 bytes":      {main, {Name: "main56789", Id: idLow}},
-		"name in capitals":     {{Name: "Main", Id: idLow}, main},
-		"name with a blank":    {main, {Name: "main 2", Id: idLow}},
-		"name of a byte 128":   {main, {Name: "\x80", Id: idLow}},
-		"no id":                {main, {Name: "new", Id: ""}},
-		"id of 15 digits":      {main, {Name: "new", Id: idLow[:15]}},
-		"id of 17 digits":      {main, {Name: "new", Id: idLow + "0"}},
-		"id in capitals":       {main, {Name: "new", Id: strings.ToUpper(idLow)}},
-		"id with a g":          {{Name: "a", Id: idLow[:15] + "g"}, main},
-		"main without an id":   {{Name: "main"}},
-		"zero values":          make([]impl.Ref, 2),
-		"21":                   append([]impl.Ref{main}, numberedRefs(20)...),
-		"many, all alike":      slices.Repeat([]impl.Ref{main}, 100000),
-		"many, with no values": make([]impl.Ref, 100000),
 	}
 }
 
