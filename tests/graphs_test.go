@@ -50,6 +50,18 @@ func (g graph) rising(places []int) []string {
 	return slices.Sorted(slices.Values(g.idsAt(places)))
 }
 
+// parentsAt are the places of a commit's parents, as they stand in it.
+func (g graph) parentsAt(at int) []int {
+	out := slices.Clone(g.parents[at])
+	slices.SortFunc(out, func(x, y int) int { return cmp.Compare(g.ids[x], g.ids[y]) })
+	return out
+}
+
+func (g graph) noteAt(at int) string {
+	_, note, _ := strings.Cut(g.texts[2*at+1], "\n")
+	return note
+}
+
 // objsAt has the commits at these places and the trees of these maps, alone.
 func (g graph) objsAt(places []int, maps []string) []impl.Obj {
 	var texts []string
