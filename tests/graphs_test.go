@@ -26,15 +26,22 @@ func graphOf(parents ...[]int) graph {
 
 // mappedGraph has for each commit the map of this text.
 func mappedGraph(maps []string, parents ...[]int) graph {
-	g := graph{parents: parents, maps: maps}
+	var g graph
 	for i, places := range parents {
-		tree := "map\n" + maps[i]
-		text := commitText(idOf(tree), fmt.Sprint("commit ", i), g.rising(places)...)
-		g.texts = append(g.texts, tree, text)
-		g.ids = append(g.ids, idOf(text))
+		g.grow(maps[i], fmt.Sprint("commit ", i), places)
 	}
 	g.objs = objsOf(g.texts...)
 	return g
+}
+
+// grow puts one more commit behind those at these places; objs are as they were.
+func (g *graph) grow(m, note string, places []int) {
+	tree := "map\n" + m
+	text := commitText(idOf(tree), note, g.rising(places)...)
+	g.texts = append(g.texts, tree, text)
+	g.ids = append(g.ids, idOf(text))
+	g.parents = append(g.parents, places)
+	g.maps = append(g.maps, m)
 }
 
 // idsAt keeps the order of the places.

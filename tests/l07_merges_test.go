@@ -378,17 +378,23 @@ func (g graph) mergeOf(t *testing.T, a, b int, note string) ([]impl.Obj, string,
 	case behind[b][a]:
 		return g.objs, g.ids[b], nil, true
 	}
-	var base []impl.Pair
-	if ids := g.bases(behind, a, b); len(ids) > 0 {
-		base = pairs(t, g.maps[slices.Index(g.ids, ids[0])])
-	}
-	m, told := mergedFrom(base, pairs(t, g.maps[a]), pairs(t, g.maps[b]), nil)
+	m, told := g.mergerAt(t, behind, a, b)
 	if len(told) > 0 {
 		return nil, "", told, false
 	}
 	tree := treeOf(m)
 	text := commitText(idOf(tree), note, g.rising([]int{a, b})...)
 	return objsOf(append(slices.Clone(g.texts), tree, text)...), idOf(text), nil, true
+}
+
+// mergerAt is the merger of the maps of two commits, and the keys that clash.
+func (g graph) mergerAt(t *testing.T, behind [][]bool, a, b int) ([]impl.Pair, []string) {
+	t.Helper()
+	var base []impl.Pair
+	if ids := g.bases(behind, a, b); len(ids) > 0 {
+		base = pairs(t, g.maps[slices.Index(g.ids, ids[0])])
+	}
+	return mergedFrom(base, pairs(t, g.maps[a]), pairs(t, g.maps[b]), nil)
 }
 
 // treeOf is put together by hand, so that the tests do not lean on MapText.
